@@ -85,7 +85,17 @@ func TestSumTellsBytesThatDifferWithin16Bits(t *testing.T) {
 	}
 }
 
-// Way 1: the table is made once, whoever asks first.
+// P1.1: the words of the table are those that single bytes add to a sum.
+func TestTableWordsAreThoseOfSum(t *testing.T) {
+	for i := range 256 {
+		high := byte(i)
+		if got, want := octet.TableWord(high), octet.Sum([]byte{^high})^0xff00; got != want {
+			t.Errorf("TableWord(%02x) = %04x, want %04x", high, got, want)
+		}
+	}
+}
+
+// Rule 7: Sum keeps nothing, so that many may ask at once.
 func TestSumInManyGoroutines(t *testing.T) {
 	b := bytes.Repeat([]byte("123456789"), 50)
 	want := bitwiseSum(b)
