@@ -20,6 +20,8 @@ const (
 	markWay       = 'e' // Imm with its sign
 	markBit       = 'v' // y in digits
 	markPlace     = 't' // 8 times y in digits
+	markShift     = 'r' // the shift of y
+	markOperation = 'a' // the operation of y
 )
 
 var shifts = [8]string{"RLC ", "RRC ", "RL ", "RR ", "SLA ", "SRA ", "SLL ", "SRL "}
@@ -28,13 +30,13 @@ var operations = [8]string{"ADD A,", "ADC A,", "SUB ", "SBC A,", "AND ", "XOR ",
 
 // patternOf answers the pattern of an instruction whose text isn't its bytes.
 func patternOf(i api.Ins) string {
-	switch _, _, z, _, _ := decode.Parts(i.Op); {
+	switch x, _, z, _, _ := decode.Parts(i.Op); {
 	case i.Set == api.SetBits:
-		return patternOfBits(i.Op, "z")
+		return [4]string{"rz", "BIT v,z", "RES v,z", "SET v,z"}[x]
 	case i.Set == api.SetBoth && z == codeMemory:
-		return patternOfBits(i.Op, "m")
+		return [4]string{"rm", "BIT v,m", "RES v,m", "SET v,m"}[x]
 	case i.Set == api.SetBoth:
-		return patternOfBits(i.Op, "m,z")
+		return [4]string{"rm,z", "", "RES v,m,z", "SET v,m,z"}[x]
 	case i.Set == api.SetMore:
 		return patternOfMore(i.Op)
 	default:
@@ -42,23 +44,9 @@ func patternOf(i api.Ins) string {
 	}
 }
 
-// patternOfBits answers the pattern of a shift, or of what is done to a bit, of the operand.
-func patternOfBits(op int, operand string) string {
-	switch x, y, _, _, _ := decode.Parts(op); x {
-	case 0:
-		return shifts[y] + operand
-	case 1:
-		return "BIT v," + operand
-	case 2:
-		return "RES v," + operand
-	default:
-		return "SET v," + operand
-	}
-}
-
 func patternOfMain(op int) string {
 	const halt = 0x76
-	switch x, y, _, _, _ := decode.Parts(op); {
+	switch x, _, _, _, _ := decode.Parts(op); {
 	case x == 0:
 		return patternOfLow(op)
 	case op == halt:
@@ -66,7 +54,7 @@ func patternOfMain(op int) string {
 	case x == 1:
 		return "LD y,z"
 	case x == 2:
-		return operations[y] + "z"
+		return "az"
 	default:
 		return patternOfHigh(op)
 	}
@@ -110,7 +98,7 @@ func patternOfHigh(op int) string {
 	case 5:
 		return [2]string{"PUSH k", "CALL n"}[q]
 	case 6:
-		return operations[y] + "n"
+		return "an"
 	default:
 		return "RST t"
 	}
@@ -147,9 +135,10 @@ func patternOfMore(op int) string {
 // patternOfBlock answers the pattern of one of those that move, find, take in or give out.
 func patternOfBlock(op int) string {
 	_, y, z, _, _ := decode.Parts(op)
-	what := [4]string{"LD", "CP", "IN", "OT"}[z%4]
-	if repeats := y >= 6; z == 3 && !repeats {
-		what = "OUT"
-	}
-	return what + [4]string{"I", "D", "IR", "DR"}[y%4]
+	return [4][4]string{
+		{"LDI", "LDD", "LDIR", "LDDR"},
+		{"CPI", "CPD", "CPIR", "CPDR"},
+		{"INI", "IND", "INIR", "INDR"},
+		{"OUTI", "OUTD", "OTIR", "OTDR"},
+	}[z%4][y%4]
 }

@@ -147,6 +147,11 @@ func want(i api.Ins) string {
 	return strings.NewReplacer("n", strconv.Itoa(i.Imm), "e", signed(i.Imm), "d", signed(i.Disp)).Replace(s)
 }
 
+// withoutOperands answers one of texts with nothing in the place of operands.
+func withoutOperands(s string) string {
+	return strings.NewReplacer("n", "", "e", "", "d", "").Replace(s)
+}
+
 func digitsOf(b []byte) string {
 	var words []string
 	for _, c := range b {

@@ -25,6 +25,9 @@ var byteNames = [8]string{"B", "C", "D", "E", "H", "L", "(HL)", "A"}
 
 var pairNames = [4]string{"BC", "DE", "HL", "SP"}
 
+// nameAF is that of the stack's pair in the place of SP.
+const nameAF = "AF"
+
 var indexNames = [3]string{"HL", "IX", "IY"}
 
 var conditions = [8]string{"NZ", "Z", "NC", "C", "PO", "PE", "P", "M"}
@@ -97,6 +100,10 @@ func (w *writer) mark(c byte) {
 		w.number(y)
 	case markPlace:
 		w.number(8 * y)
+	case markShift:
+		w.text.WriteString(shifts[y])
+	case markOperation:
+		w.text.WriteString(operations[y])
 	default:
 		w.text.WriteByte(c)
 	}
@@ -132,7 +139,7 @@ func (w *writer) pair(code int) {
 
 func (w *writer) pairOfStack(code int) {
 	if code == pairSP {
-		w.text.WriteString("AF")
+		w.text.WriteString(nameAF)
 		return
 	}
 	w.pair(code)
